@@ -10,7 +10,7 @@ import (
 
 // Promise 1 for chapter 1.
 
-// isInvalid reports whether a reader or an automaton of a call, or a word for its letters, is not valid.
+// isInvalid reports whether a machine of a call, or a word for its letters, is not valid.
 func isInvalid(args []any) bool {
 	letters := int64(0)
 	for _, a := range args {
@@ -22,6 +22,11 @@ func isInvalid(args []any) bool {
 			letters = x.Letters
 		case impl.Many:
 			if !isMany(x) {
+				return true
+			}
+			letters = x.Letters
+		case impl.Turner:
+			if !isTurner(x) {
 				return true
 			}
 			letters = x.Letters
@@ -52,6 +57,7 @@ func codeFault(args, results []any) string {
 func noFault(args, results []any) string { return "" }
 
 func TestPurityOfChapter1(t *testing.T) {
+	t.Parallel()
 	texts := []string{"", "a", "ab", "cab", "d", "a b", "\x00", "\xff\xfe", strings.Repeat("a", 60), strings.Repeat("a", 61), example, "reader 2 3 0", "reader", strings.Repeat("a", 20001)}
 	numbers := []int64{math.MinInt64, -1, 0, 1, 2, 3, 4, 8, 9, 30, 31, math.MaxInt64}
 	p := poolOf(append(oddReaders(), readersToTry()...), append(oddManys(), manysToTry()...), texts, numbers)
