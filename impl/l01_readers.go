@@ -359,16 +359,21 @@ func (s *spelling) then(letter int64) *spelling {
 	return &spelling{before: s, letter: 'a' + byte(letter), length: s.length + 1}
 }
 
+// text returns the spelling as a text, which may be too long for a word.
+func (s *spelling) text() string {
+	letters := make([]byte, s.length)
+	for ; s.length > 0; s = s.before {
+		letters[s.length-1] = s.letter
+	}
+	return string(letters)
+}
+
 // word returns the word, or ErrLimit if it is too long for one.
 func (s *spelling) word() (string, int64) {
 	if s.length > MaxWord {
 		return "", ErrLimit
 	}
-	letters := make([]byte, s.length)
-	for ; s.length > 0; s = s.before {
-		letters[s.length-1] = s.letter
-	}
-	return string(letters), OK
+	return s.text(), OK
 }
 
 // firstWords yields, in the order of words, the first word that leads to each state that can be reached, and this state.

@@ -30,6 +30,10 @@ func isInvalid(args []any) bool {
 				return true
 			}
 			letters = x.Letters
+		case impl.Table:
+			if !isTable(x) {
+				return true
+			}
 		case string:
 			if !isWord(letters, x) {
 				return true
