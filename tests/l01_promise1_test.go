@@ -34,6 +34,11 @@ func isInvalid(args []any) bool {
 			if !isTable(x) {
 				return true
 			}
+		case impl.Wanderer:
+			if !isWanderer(x) {
+				return true
+			}
+			letters = x.Letters
 		case string:
 			if !isWord(letters, x) {
 				return true
