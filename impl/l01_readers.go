@@ -204,11 +204,15 @@ func StateAfter(r Reader, w string) (int64, int64) {
 	if !ValidReader(r) || !ValidWord(r.Letters, w) {
 		return 0, ErrInvalid
 	}
-	state := r.Start
+	return r.after(r.Start, w), OK
+}
+
+// after returns the state to which a word leads from a state.
+func (r Reader) after(state int64, w string) int64 {
 	for i := range len(w) {
 		state = r.Next[state][letterNumber(w[i])]
 	}
-	return state, OK
+	return state
 }
 
 // Takes reports whether a reader takes a word.

@@ -43,6 +43,18 @@ func isInvalid(args []any) bool {
 			if !isWord(letters, x) {
 				return true
 			}
+		case []string:
+			for _, w := range x {
+				if !isWord(letters, w) {
+					return true
+				}
+			}
+		case []impl.Fooling:
+			for _, p := range x {
+				if !isWord(letters, p.Left) || !isWord(letters, p.Right) {
+					return true
+				}
+			}
 		}
 	}
 	return false
