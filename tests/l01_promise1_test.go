@@ -39,6 +39,16 @@ func isInvalid(args []any) bool {
 				return true
 			}
 			letters = x.Letters
+		case impl.Rotator:
+			if !isRotator(x) {
+				return true
+			}
+			letters = x.Letters
+		case impl.Pebbler:
+			if !isPebbler(x) {
+				return true
+			}
+			letters = x.Letters
 		case string:
 			if !isWord(letters, x) {
 				return true
