@@ -49,6 +49,11 @@ func isInvalid(args []any) bool {
 				return true
 			}
 			letters = x.Letters
+		case impl.Writer:
+			if !isWriter(x) {
+				return true
+			}
+			letters = x.Turner.Letters
 		case string:
 			if !isWord(letters, x) {
 				return true
