@@ -54,6 +54,16 @@ func isInvalid(args []any) bool {
 				return true
 			}
 			letters = x.Turner.Letters
+		case impl.Row:
+			if !isRow(x) {
+				return true
+			}
+		case []impl.Deed:
+			for _, d := range x {
+				if !isDeed(d) {
+					return true
+				}
+			}
 		case string:
 			if !isWord(letters, x) {
 				return true
